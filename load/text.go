@@ -5,6 +5,7 @@ import (
 	"strings"
 
 	"gooseneck/api"
+	"gooseneck/words"
 )
 
 // Text returns the text of a load. (P2.7)
@@ -29,23 +30,14 @@ func Parse(s string) (api.Load, api.Errno) {
 }
 
 func text(l api.Load) string {
-	s := line("load "+l.Name, l.Friction)
+	s := words.Line("load "+l.Name, l.Friction)
 	for _, p := range l.Pieces {
-		s += line("piece", p.X, p.Y, p.Z, p.L, p.W, p.H, p.Mass)
+		s += words.Line("piece", p.X, p.Y, p.Z, p.L, p.W, p.H, p.Mass)
 	}
 	for _, y := range l.Eyes {
-		s += line("eye", y.X, y.Y, y.Z, y.Strength)
+		s += words.Line("eye", y.X, y.Y, y.Z, y.Strength)
 	}
 	return s
-}
-
-func line(first string, numbers ...int64) string {
-	b := []byte(first)
-	for _, n := range numbers {
-		b = append(b, ' ')
-		b = strconv.AppendInt(b, n, 10)
-	}
-	return string(append(b, '\n'))
 }
 
 // meaning is what a line means: how many words it has behind the first one, and what they add to a load.
